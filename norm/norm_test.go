@@ -6,6 +6,7 @@ import (
 	"testing"
 
 	"fascia/api"
+	"fascia/sample"
 )
 
 // far: numbers that are no scalar, and those at the ends of what there is.
@@ -74,29 +75,6 @@ var samples = []struct{ l, d, c []rune }{
 // edges: starters and marks that compose with one another in all ways there are.
 var edges = []rune{'u', 0xFC, 0x1D8, 'c', 0x301, 0x308, 0x305, 0x327, 0x334, 0x902, 0x2329, 0x1100, 0x1161, 0x11A8, 0xAC00, 0xAC01}
 
-// eachList calls see with all lists of up to n of the given code points.
-func eachList(n int, of []rune, see func([]rune)) {
-	var grow func(l []rune)
-	grow = func(l []rune) {
-		see(l)
-		if len(l) == n {
-			return
-		}
-		for _, r := range of {
-			grow(append(l, r))
-		}
-	}
-	grow(make([]rune, 0, n))
-}
-
-// noise returns numbers that look like any, the same ones each time.
-func noise(seed uint64) func(below int) int {
-	return func(below int) int {
-		seed = seed*6364136223846793005 + 1442695040888963407
-		return int(seed >> 33 % uint64(below))
-	}
-}
-
 // marks: two or more of each of some classes, and one that is a starter.
 var marks = []rune{0x300, 0x301, 0x302, 0x303, 0x308, 0x30A, 0x323, 0x324, 0x327, 0x328, 0x334, 0x335, 0x653, 0x654, 0x655, 0x64B, 0x5B4, 0x93C, 0x94D, 0x3099, 0x902}
 
@@ -124,8 +102,8 @@ func lists(see func([]rune)) {
 	for _, x := range samples {
 		see(x.l)
 	}
-	eachList(4, edges, see)
-	next := noise(1)
+	sample.Lists(4, edges, see)
+	next := sample.Noise(1)
 	for i := range 3000 {
 		see(noisy(next, i%60))
 	}
@@ -383,7 +361,7 @@ func TestAgain(t *testing.T) {
 // TestSame: lists have the same NFD exactly if they have the same NFC.
 func TestSame(t *testing.T) {
 	composed, decomposed := map[string]string{}, map[string]string{}
-	eachList(4, edges, func(l []rune) {
+	sample.Lists(4, edges, func(l []rune) {
 		d, c := string(NFD(l)), string(NFC(l))
 		if x, ok := composed[d]; ok && x != c {
 			t.Fatalf("%x: the NFD is also that of what composes to %q", l, x)

@@ -8,6 +8,7 @@ import (
 	"testing"
 
 	"fascia/api"
+	"fascia/sample"
 )
 
 // samples: those of the chapter, of RFC 3492 (7.1), and edges; the texts are not this program's.
@@ -53,29 +54,6 @@ var notScalars = []rune{0xD800, 0xD801, 0xDBFF, 0xDC00, 0xDFFE, 0xDFFF, -1, -2, 
 
 // edges: basic scalars and others, at both ends of what there is.
 var edges = []rune{0, '-', '9', 'Z', 'a', 127, 128, 129, 0xFC, 0xD7FF, 0xE000, 0x10FFFF}
-
-// eachList calls see with all lists of up to n of the given code points.
-func eachList[T any](n int, of []T, see func([]T)) {
-	var grow func(l []T)
-	grow = func(l []T) {
-		see(l)
-		if len(l) == n {
-			return
-		}
-		for _, x := range of {
-			grow(append(l, x))
-		}
-	}
-	grow(make([]T, 0, n))
-}
-
-// noise returns numbers that look like any, the same ones each time.
-func noise(seed uint64) func(below int) int {
-	return func(below int) int {
-		seed = seed*6364136223846793005 + 1442695040888963407
-		return int(seed >> 33 % uint64(below))
-	}
-}
 
 // noisy returns a list of n scalars of all kinds.
 func noisy(next func(int) int, n int) []rune {
@@ -126,12 +104,12 @@ func TestEncode(t *testing.T) {
 }
 
 func TestEncodeByReference(t *testing.T) {
-	eachList(4, edges, func(l []rune) {
+	sample.Lists(4, edges, func(l []rune) {
 		if s, want := encode(t, l), textOf(l); s != want {
 			t.Fatalf("Encode(%x) = %q, want %q", l, s, want)
 		}
 	})
-	next := noise(1)
+	next := sample.Noise(1)
 	for i := range 200 {
 		l := noisy(next, i)
 		if s, want := encode(t, l), textOf(l); s != want {
@@ -264,15 +242,15 @@ func TestDecodeByReference(t *testing.T) {
 			t.Errorf("Decode(%q) = %x, want %x", s, l, want)
 		}
 	}
-	eachList(4, bytes, func(b []byte) { check(string(b)) })
-	eachList(7, []byte("-a9z"), func(b []byte) { check(string(b)) })
+	sample.Lists(4, bytes, func(b []byte) { check(string(b)) })
+	sample.Lists(7, []byte("-a9z"), func(b []byte) { check(string(b)) })
 	for n := range 300 {
 		for _, c := range []string{"a", "b", "y", "z", "0", "9"} {
 			check(strings.Repeat(c, n))
 			check("x-" + strings.Repeat(c, n) + "a")
 		}
 	}
-	next := noise(2)
+	next := sample.Noise(2)
 	for i := range 20000 {
 		b := make([]byte, i%40)
 		for j := range b {
@@ -353,7 +331,7 @@ func TestDecodeIsNew(t *testing.T) {
 
 func TestOneTextEach(t *testing.T) {
 	lists := map[string]string{}
-	eachList(4, edges, func(l []rune) {
+	sample.Lists(4, edges, func(l []rune) {
 		s := encode(t, l)
 		if was, ok := lists[s]; ok {
 			t.Fatalf("%q is the text of %q and of %q", s, was, string(l))
@@ -378,15 +356,15 @@ func TestNoOtherText(t *testing.T) {
 			t.Fatalf("%q is decoded as %x, the text of which is %q", b, l, s)
 		}
 	}
-	eachList(3, []byte(byValue+"-AZ \x00\x7F"), check)
-	eachList(5, []byte("-akz09"), check)
+	sample.Lists(3, []byte(byValue+"-AZ \x00\x7F"), check)
+	sample.Lists(5, []byte("-akz09"), check)
 	if texts < 1000 {
 		t.Errorf("only %d texts", texts)
 	}
 }
 
 func TestLongListsAgain(t *testing.T) {
-	next := noise(3)
+	next := sample.Noise(3)
 	for n := 1; n <= 2000; n += 97 {
 		l := noisy(next, n)
 		s := encode(t, l)
@@ -400,7 +378,7 @@ func TestLongListsAgain(t *testing.T) {
 }
 
 func TestBasicEndsWithHyphen(t *testing.T) {
-	eachList(3, []rune{0, ' ', '-', '0', 'A', 'a', 'z', 127}, func(l []rune) {
+	sample.Lists(3, []rune{0, ' ', '-', '0', 'A', 'a', 'z', 127}, func(l []rune) {
 		if len(l) > 0 && encode(t, l) != string(l)+"-" {
 			t.Errorf("Encode(%q) = %q", string(l), encode(t, l))
 		}

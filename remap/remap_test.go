@@ -6,6 +6,7 @@ import (
 	"testing"
 
 	"fascia/api"
+	"fascia/sample"
 	"fascia/ucd"
 )
 
@@ -14,21 +15,6 @@ var far = []rune{-1, -2, -0x41, -0x5A, -0xAD, -0xFF21, math.MinInt32, math.MinIn
 
 // edges: of each kind some, and what is mapped to others of them.
 var edges = []rune{'A', 'a', '.', 0, 0x7F, 0x80, 0xA0, 0xAD, 0xDF, 0x301, 0x1D7, 0x200B, 0x200D, 0x2026, 0x202E, 0x3002, 0xE000, 0xFF21, -1, 0x110000}
-
-// eachList calls see with all lists of up to n of the given code points.
-func eachList(n int, of []rune, see func([]rune)) {
-	var grow func(l []rune)
-	grow = func(l []rune) {
-		see(l)
-		if len(l) == n {
-			return
-		}
-		for _, r := range of {
-			grow(append(l, r))
-		}
-	}
-	grow(make([]rune, 0, n))
-}
 
 // eachRune calls see with all code points, numbers before and behind them, and those far off.
 func eachRune(see func(rune)) {
@@ -184,7 +170,7 @@ func TestMapEach(t *testing.T) {
 			t.Fatalf("Map of %d from %x on: %d, %v, want %d, %v", len(l), l[:min(len(l), 4)], len(got), good, len(want), wantGood)
 		}
 	}
-	eachList(4, edges, check)
+	sample.Lists(4, edges, check)
 	eachRune(func(r rune) { check([]rune{r}) })
 	check(everything())
 }
@@ -218,7 +204,7 @@ func TestMappedAgain(t *testing.T) {
 			t.Fatalf("Map of %d from %x on: %d, %v, mapped again %d, %v", len(l), l[:min(len(l), 4)], len(once), good, len(twice), again)
 		}
 	}
-	eachList(3, edges, check)
+	sample.Lists(3, edges, check)
 	eachRune(func(r rune) { check([]rune{r}) })
 	check(everything())
 }
@@ -233,10 +219,10 @@ func TestNoCapitalIsLeft(t *testing.T) {
 }
 
 func TestConcatenation(t *testing.T) {
-	eachList(2, edges, func(a []rune) {
+	sample.Lists(2, edges, func(a []rune) {
 		a = slices.Clone(a)
 		mapped, goodA := Map(a)
-		eachList(2, edges, func(b []rune) {
+		sample.Lists(2, edges, func(b []rune) {
 			rest, goodB := Map(b)
 			l, good := Map(slices.Concat(a, b))
 			if good != (goodA && goodB) || !slices.Equal(l, slices.Concat(mapped, rest)) {
