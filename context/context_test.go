@@ -15,12 +15,7 @@ var far = []rune{-1, -2, -0xB7, -0x200C, -0x660, math.MinInt32, math.MinInt32 + 
 
 // eachRune calls see with all code points up to 10FFF, numbers before them, and those far off.
 func eachRune(see func(rune)) {
-	for r := rune(-0x1000); r <= 0x10FFF; r++ {
-		see(r)
-	}
-	for _, r := range far {
-		see(r)
-	}
+	sample.Runes(-0x1000, 0x10FFF, far, see)
 }
 
 // hasRow reports whether the chapter's table has r.
@@ -261,10 +256,7 @@ func TestCheckNoise(t *testing.T) {
 	of := []rune{0x628, 0x627, 0x64E, 0x94D, 0x200C, 0x200D, 'l', 0xB7, 0x375, 0x3B1, 0x5D0, 0x5F3, 0x30FB, 0x30A2, 0x660, 0x669}
 	next := sample.Noise(8)
 	for range 20000 {
-		l := make([]rune, next(40))
-		for i := range l {
-			l[i] = of[next(len(of))]
-		}
+		l := sample.Pick(next, next(40), of)
 		wantAll(t, l)
 		if got, want := Check(l), referenceCheck(l); got != want {
 			t.Fatalf("Check(%x) = %d, want %d", l, got, want)

@@ -16,12 +16,7 @@ var far = []rune{-1, -2, -0x2D, -0x2E, -0x61, math.MinInt32, math.MinInt32 + 1, 
 
 // eachRune calls see with all code points up to last, numbers before them, and those far off.
 func eachRune(last rune, see func(rune)) {
-	for r := rune(-0x1000); r <= last; r++ {
-		see(r)
-	}
-	for _, r := range far {
-		see(r)
-	}
+	sample.Runes(-0x1000, last, far, see)
 }
 
 // lists calls see with lists that violate each clause, and several at once.

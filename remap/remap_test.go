@@ -18,12 +18,7 @@ var edges = []rune{'A', 'a', '.', 0, 0x7F, 0x80, 0xA0, 0xAD, 0xDF, 0x301, 0x1D7,
 
 // eachRune calls see with all code points, numbers before and behind them, and those far off.
 func eachRune(see func(rune)) {
-	for r := rune(-0x11000); r <= api.MaxRune+0x11000; r++ {
-		see(r)
-	}
-	for _, r := range far {
-		see(r)
-	}
+	sample.Runes(-0x11000, api.MaxRune+0x11000, far, see)
 }
 
 // everything: all code points in one list.

@@ -34,12 +34,7 @@ var far = []rune{-1, -2, -0x31, -0x5D0, -0x661, math.MinInt32, math.MinInt32 + 1
 
 // eachRune calls see with all code points up to 10FFF, numbers before them, and those far off.
 func eachRune(see func(rune)) {
-	for r := rune(-0x1000); r <= 0x10FFF; r++ {
-		see(r)
-	}
-	for _, r := range far {
-		see(r)
-	}
+	sample.Runes(-0x1000, 0x10FFF, far, see)
 }
 
 // lists calls see with lists that have each class first, inside and last, and among marks.
@@ -217,10 +212,7 @@ func TestNoise(t *testing.T) {
 	right := []rune{0x5D0, 0x627, '1', '-', '!', 0x301, 0xAD, 0x661}
 	for i := range 40000 {
 		of := [][]rune{right, right[:7], {'a', '1', '-', '!', 0x301, 0xAD}}[i%3]
-		l := make([]rune, 1+next(40))
-		for i := range l {
-			l[i] = of[next(len(of))]
-		}
+		l := sample.Pick(next, 1+next(40), of)
 		wantReference(t, l)
 		l[0] = of[0]
 		wantReference(t, l)

@@ -24,6 +24,26 @@ func TestListsOfNothing(t *testing.T) {
 	}
 }
 
+func TestRunes(t *testing.T) {
+	var got []rune
+	Runes(-2, 1, []rune{7, -9}, func(r rune) { got = append(got, r) })
+	want := []rune{-2, -1, 0, 1, 7, -9}
+	if !slices.Equal(got, want) {
+		t.Errorf("%d, want %d", got, want)
+	}
+}
+
+func TestPick(t *testing.T) {
+	at := 0
+	next := func(below int) int { at++; return at % below }
+	if got := string(Pick(next, 5, []byte("abc"))); got != "bcabc" {
+		t.Errorf("%q", got)
+	}
+	if got := Pick(next, 0, []byte{}); len(got) != 0 {
+		t.Errorf("%q of nothing", got)
+	}
+}
+
 func TestNoise(t *testing.T) {
 	a, b, other := Noise(1), Noise(1), Noise(2)
 	seen := make([]int, 10)
